@@ -667,6 +667,22 @@ func TestL3Chance(t *testing.T) {
 	}
 }
 
+// TestL3Heads holds what heads tell, and the access that changes one, as other packages go by them.
+func TestL3Heads(t *testing.T) {
+	for _, head := range edges() {
+		c, h := partsModel(head)
+		if changes, first := free.Split(head); changes != c || first != h {
+			t.Error(head, changes, first)
+		}
+		for _, first := range edges() {
+			want := api.Access{Kind: api.Swap, At: 7, Old: head, New: round([]int{sum(c, 1), base}, []int{first})}
+			if a := free.Swap(7, head, first); a != want {
+				t.Error(head, first, a)
+			}
+		}
+	}
+}
+
 // TestL4 goes by workers of whom picks tell who is next.
 func TestL4(t *testing.T) {
 	for _, x := range []struct {
