@@ -887,6 +887,37 @@ func TestL4Chance(t *testing.T) {
 	}
 }
 
+// TestL4Together goes by steps of another kind, as other packages have them: each counts one down.
+func TestL4Together(t *testing.T) {
+	var by []int
+	down := func(w api.Worker) (api.Worker, api.Errno) {
+		by = append(by, w.Job)
+		w.PC--
+		w.Done = w.PC == 0
+		if w.PC < 0 {
+			return w, api.ErrFull
+		}
+		return w, api.OK
+	}
+	l := []api.Worker{{Job: 5, PC: 2}, done(api.Worker{Job: 6, PC: 9}, 4), {Job: 7, PC: 1}, {Job: 8, PC: 3}}
+	want := []api.Worker{done(api.Worker{Job: 5}, 0), l[1], done(api.Worker{Job: 7}, 0), done(api.Worker{Job: 8}, 0)}
+	for _, x := range []struct{ picks, by []int }{{nil, []int{5, 7, 8, 5, 8, 8}}, {[]int{2, 0}, []int{8, 5, 7, 8, 5, 8}}, {[]int{-1, 1, 1, 3}, []int{5, 7, 8, 8, 5, 8}}} {
+		by = nil
+		was := slices.Clone(l)
+		if then, e := free.Together(x.picks, l, down); !slices.Equal(then, want) || e != api.OK || !slices.Equal(by, x.by) || !slices.Equal(l, was) {
+			t.Error(x, then, e, by, l)
+		}
+	}
+	for _, x := range []struct {
+		l []api.Worker
+		e api.Errno
+	}{{make([]api.Worker, crowd), api.ErrFull}, {make([]api.Worker, crowd+1), api.ErrArg}, {[]api.Worker{{PC: steps}}, api.OK}, {[]api.Worker{{PC: steps}, {PC: 1}}, api.ErrLong}} {
+		if then, e := free.Together(nil, x.l, down); e != x.e || e != api.OK && len(then) > 0 {
+			t.Error(len(x.l), len(then), e)
+		}
+	}
+}
+
 // actor is one that takes and gives back nodes, one behind the other.
 type actor struct {
 	plan string // what is still to be done: t takes a node, g gives back the one that was taken first of those that it has

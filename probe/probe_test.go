@@ -357,6 +357,18 @@ func TestN1Right(t *testing.T) {
 	}
 }
 
+// TestN1Fit goes by words of which there are as many as a table has, and by others.
+func TestN1Fit(t *testing.T) {
+	for _, x := range []api.Table{{}, {Slots: 1}, {Slots: 2, Nodes: 3}, {Nodes: 3}, {Slots: 9, Nodes: -1}, {Slots: -3, Nodes: 1}, {Slots: 4000, Nodes: 1000}, {Slots: 4001}, {Slots: 1, Nodes: 1001}, {Slots: math.MaxInt, Nodes: math.MaxInt}} {
+		many := x.Slots + 5*x.Nodes + 1
+		for n := many - 2; n < many+3; n++ {
+			if n >= 0 && probe.Fit(x, make([]int, n)) != (n == many && rightModel(x)) {
+				t.Error(x, n)
+			}
+		}
+	}
+}
+
 // TestN1New goes by tables of all numbers of slots, and of all numbers of nodes.
 func TestN1New(t *testing.T) {
 	for _, x := range []struct {
@@ -819,6 +831,29 @@ func met(t *testing.T, x api.Table, steps int, first, second [4]int) ([]int, api
 	m, v, by := walk(t, x, m, v)
 	whole(t, x, m)
 	return m, v, w, by
+}
+
+// TestN3Hand goes by steps of one hand, into which many workers are laid, as other packages go by it: they are those of Step.
+func TestN3Hand(t *testing.T) {
+	next := chance()
+	for range 300 {
+		x := api.Table{Slots: 1 + next(4), Nodes: next(5)}
+		if next(9) == 0 {
+			x.Slots = 0
+		}
+		m := slices.Concat(probe.New(x), make([]int, next(9)/8))
+		words := slices.Clone(m)
+		h := probe.HandAt(x, words)
+		l := []api.Worker{probe.Intern(few(next)), probe.Intern(few(next)), at(next(33), few(next), next(4), next(4), next(4), next(4))}
+		for range 40 {
+			w := &l[next(len(l))]
+			n, then, e := probe.Step(x, m, *w)
+			if v, f := h.Step(*w); v != then || f != e || !slices.Equal(words, n) {
+				t.Fatal(x, m, *w, then, e, v, f, words)
+			}
+			m, *w = n, then
+		}
+	}
 }
 
 // TestN3Two goes by all steps of one worker behind which another one may come between.
